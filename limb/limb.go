@@ -23,25 +23,22 @@ func Sub(a, b api.Num) (rest api.Num, borrow uint64) {
 	return rest, borrow
 }
 
-// Mul tells the product: hi times 2^256 and lo.
+// Mul tells the product: hi times 2^256 and lo. The rows stand one by one, without arrays between: all layers above wait for this call.
 func Mul(a, b api.Num) (lo, hi api.Num) {
-	var product [8]uint64
-	for i := range a {
-		product = addRow(product, a[i], b, i)
-	}
-	copy(lo[:], product[:4])
-	copy(hi[:], product[4:])
-	return lo, hi
+	lo0, h0, h1, h2, h3 := addRow(0, 0, 0, 0, a[0], b)
+	lo1, h0, h1, h2, h3 := addRow(h0, h1, h2, h3, a[1], b)
+	lo2, h0, h1, h2, h3 := addRow(h0, h1, h2, h3, a[2], b)
+	lo3, h0, h1, h2, h3 := addRow(h0, h1, h2, h3, a[3], b)
+	return api.Num{lo0, lo1, lo2, lo3}, api.Num{h0, h1, h2, h3}
 }
 
-// addRow adds digit times b to sum, from the digit at on. The digit at + 4 must be 0 still.
-func addRow(sum [8]uint64, digit uint64, b api.Num, at int) [8]uint64 {
-	var carry uint64
-	for j := range b {
-		sum[at+j], carry = mulAdd(digit, b[j], sum[at+j], carry)
-	}
-	sum[at+4] = carry
-	return sum
+// addRow tells the four digits from s0 on, and digit times b: in five digits, the lowest first.
+func addRow(s0, s1, s2, s3, digit uint64, b api.Num) (t0, t1, t2, t3, t4 uint64) {
+	t0, carry := mulAdd(digit, b[0], s0, 0)
+	t1, carry = mulAdd(digit, b[1], s1, carry)
+	t2, carry = mulAdd(digit, b[2], s2, carry)
+	t3, t4 = mulAdd(digit, b[3], s3, carry)
+	return t0, t1, t2, t3, t4
 }
 
 // mulAdd tells x times y and both of c and d, in two digits: it is at most 2^128 - 1, so that high never wraps.
